@@ -99,38 +99,29 @@ func spoil[T any](l []T, with T) {
 	}
 }
 
+// checkFresh overwrites the first of several results of one call; the others must be as wanted.
+func checkFresh[T comparable](t *testing.T, call func(string) ([]T, api.Errno), arg string, with T, want ...T) {
+	t.Helper()
+	first, _ := call(arg)
+	kept, _ := call(arg)
+	spoil(first, with)
+	later, _ := call(arg)
+	if !slices.Equal(kept, want) || !slices.Equal(later, want) {
+		t.Errorf("%q: %v, and later %v, want %v", arg, kept, later, want)
+	}
+}
+
 // P1 (R3) and P1.8: results are fresh memory: who overwrites one changes neither another one nor a later one.
 func TestResultsFresh(t *testing.T) {
-	for _, line := range []string{"", "a", "a \"b\" c"} {
-		first, _ := words.Split(line)
-		kept, _ := words.Split(line)
-		spoil(first, quoted("spoiled"))
-		later, _ := words.Split(line)
-		want, _ := split(line)
-		if !slices.Equal(kept, want) || !slices.Equal(later, want) {
-			t.Errorf("Split(%q): %v, %v", line, kept, later)
-		}
-	}
-	for _, text := range []string{"", "\n", "a\nb\n"} {
-		first, _ := words.Lines(text)
-		kept, _ := words.Lines(text)
-		want := slices.Clone(kept)
-		spoil(first, "spoiled")
-		later, _ := words.Lines(text)
-		if !slices.Equal(kept, want) || !slices.Equal(later, want) {
-			t.Errorf("Lines(%q): %q, %q", text, kept, later)
-		}
-	}
-	for _, s := range []string{"-", "0", "1-3,5"} {
-		first, _ := words.ParseList(s)
-		kept, _ := words.ParseList(s)
-		want := slices.Clone(kept)
-		spoil(first, 99)
-		later, _ := words.ParseList(s)
-		if !slices.Equal(kept, want) || !slices.Equal(later, want) {
-			t.Errorf("ParseList(%s): %v, %v", s, kept, later)
-		}
-	}
+	checkFresh(t, words.Split, "", bare("x"))
+	checkFresh(t, words.Split, "a", bare("x"), bare("a"))
+	checkFresh(t, words.Split, "a \"b\" c", bare("x"), bare("a"), quoted("b"), bare("c"))
+	checkFresh(t, words.Lines, "", "x")
+	checkFresh(t, words.Lines, "\n", "x", "")
+	checkFresh(t, words.Lines, "a\nb\n", "x", "a", "b")
+	checkFresh(t, words.ParseList, "-", 99)
+	checkFresh(t, words.ParseList, "0", 99, 0)
+	checkFresh(t, words.ParseList, "1-3,5", 99, 1, 2, 3, 5)
 }
 
 // P1 (R3): a result does not follow its argument when this is changed later.
